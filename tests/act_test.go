@@ -557,10 +557,10 @@ func TestPerformEveryNumber(t *testing.T) {
 	}
 }
 
-// eachList calls with every list of up to n of the actions.
-func eachList(all []impl.Act, n int, call func(l []impl.Act)) {
-	var further func(l []impl.Act)
-	further = func(l []impl.Act) {
+// eachList calls with every list of up to n of them all.
+func eachList[E any](all []E, n int, call func(l []E)) {
+	var further func(l []E)
+	further = func(l []E) {
 		call(l)
 		if len(l) < n {
 			for _, a := range all {
